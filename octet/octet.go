@@ -12,19 +12,11 @@ const (
 	polynomial = 0xedb88320 // of the checksum, its lowest bit first
 )
 
-// table has, for each byte, what its eight steps of the checksum come to.
+// table has the word of each byte, as Word tells it. The calls of the chapter do not read it: they ask steps.
 var table = func() [256]uint32 {
 	var words [256]uint32
 	for i := range words {
-		word := uint32(i)
-		for range 8 {
-			out := word & 1
-			word >>= 1
-			if out == 1 {
-				word ^= polynomial
-			}
-		}
-		words[i] = word
+		words[i] = steps(uint32(i))
 	}
 	return words
 }()
@@ -48,10 +40,29 @@ func Sum(b ...[]byte) uint32 {
 	sum := ^uint32(0)
 	for _, piece := range b {
 		for _, c := range piece {
-			sum = sum>>8 ^ table[byte(sum)^c]
+			sum = steps(sum ^ uint32(c))
 		}
 	}
 	return ^sum
+}
+
+// Word returns what the eight steps of the checksum come to for the byte c alone. It stands beside the calls of the
+// chapter, for one that takes a byte's steps at once: they make sum>>8 ^ Word(byte(sum)^c) of sum, whose bits are
+// inverted at the end alone.
+func Word(c byte) uint32 {
+	return table[c]
+}
+
+// steps returns word after the eight steps of the checksum for a byte that it was xored with.
+func steps(word uint32) uint32 {
+	for range 8 {
+		out := word & 1
+		word >>= 1
+		if out == 1 {
+			word ^= polynomial
+		}
+	}
+	return word
 }
 
 // withRoom copies b with room for as many bytes more, so that nothing is written behind the caller's bytes.

@@ -172,6 +172,24 @@ func TestSumOfEachByteAndOfMany(t *testing.T) {
 	}
 }
 
+func TestSumByWords(t *testing.T) {
+	for i := range 256 {
+		// The complement is made up for: the steps begin at ffffffff and their result is inverted.
+		want := ^stepwise([]byte{byte(i) ^ 0xff}) ^ 0x00ffffff
+		if got := octet.Word(byte(i)); got != want {
+			t.Errorf("%02x: %08x, not %08x", i, got, want)
+		}
+	}
+	b := []byte("bytes whose steps are taken from words, a byte at once \x00\x7f\x80\xff")
+	sum := ^uint32(0)
+	for i, c := range b {
+		sum = sum>>8 ^ octet.Word(byte(sum)^c)
+		if ^sum != octet.Sum(b[:i+1]) {
+			t.Fatal(i, sum)
+		}
+	}
+}
+
 func TestSumOfPieces(t *testing.T) {
 	b := []byte("bytes that come in pieces")
 	want := octet.Sum(b)
